@@ -54,7 +54,7 @@ func IsValidMarking(n Net, mark string) bool {
 	return true
 }
 
-func isTransition(n Net, t int) bool {
+func (n Net) hasTransition(t int) bool {
 	return t >= 0 && t < len(n.Transitions)
 }
 
@@ -122,7 +122,7 @@ func Enabled(n Net, mark string) ([]int, bool) {
 }
 
 func Fire(n Net, mark string, t int) (string, bool) {
-	if !IsValidMarking(n, mark) || !isTransition(n, t) {
+	if !IsValidMarking(n, mark) || !n.hasTransition(t) {
 		return "", false
 	}
 	m, ok := fireTransition(readMarking(mark), n.Transitions[t])
@@ -138,7 +138,7 @@ func FireSequence(n Net, mark string, l []int) (string, int, bool) {
 	}
 	m := readMarking(mark)
 	for fired, t := range l {
-		if !isTransition(n, t) {
+		if !n.hasTransition(t) {
 			return writeMarking(n, m), fired, false
 		}
 		next, ok := fireTransition(m, n.Transitions[t])
@@ -151,7 +151,7 @@ func FireSequence(n Net, mark string, l []int) (string, int, bool) {
 }
 
 func AreIndependent(n Net, t int, u int) (bool, bool) {
-	if !IsValidNet(n) || !isTransition(n, t) || !isTransition(n, u) {
+	if !IsValidNet(n) || !n.hasTransition(t) || !n.hasTransition(u) {
 		return false, false
 	}
 	first, second := n.Transitions[t], n.Transitions[u]
