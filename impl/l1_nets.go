@@ -24,20 +24,20 @@ func IsValidNet(n Net) bool {
 		return false
 	}
 	for _, t := range n.Transitions {
-		if len(t.Pre) == 0 || !isPlaceList(n, t.Pre) || !isPlaceList(n, t.Post) {
+		if len(t.Pre) == 0 || !isIndexList(t.Pre, n.Places) || !isIndexList(t.Post, n.Places) {
 			return false
 		}
 	}
 	return true
 }
 
-func isPlaceList(n Net, places []int) bool {
+func isIndexList(l []int, count int) bool {
 	last := -1
-	for _, p := range places {
-		if p <= last || p >= n.Places {
+	for _, i := range l {
+		if i <= last || i >= count {
 			return false
 		}
-		last = p
+		last = i
 	}
 	return true
 }
