@@ -466,12 +466,15 @@ func TestPrefixEventLimit(t *testing.T) {
 	checkNoPrefix(t, back(3).Net, back(3).Start)
 	checkNoPrefix(t, back(0).Net, back(0).Start)
 	// Two counters side by side: there are several possible extensions until the end.
-	both := func(first, second impl.STG) impl.STG {
-		return with(first, second.Start, shifted(second.Net.Transitions, first.Net.Places)...)
+	checkSizes(t, beside(counter(5, 1), counter(5, 1)), impl.MaxEvents, 2*(5+56))
+	for _, over := range []impl.STG{beside(counter(5, 0), counter(5, 1)), beside(counter(5, 1), counter(5, 0))} {
+		checkNoPrefix(t, over.Net, over.Start)
 	}
-	checkSizes(t, both(counter(5, 1), counter(5, 1)), impl.MaxEvents, 2*(5+56))
-	checkNoPrefix(t, both(counter(5, 0), counter(5, 1)).Net, both(counter(5, 0), counter(5, 1)).Start)
-	checkNoPrefix(t, both(counter(5, 1), counter(5, 0)).Net, both(counter(5, 1), counter(5, 0)).Start)
+}
+
+// beside returns two graphs side by side.
+func beside(first, second impl.STG) impl.STG {
+	return with(first, second.Start, shifted(second.Net.Transitions, first.Net.Places)...)
 }
 
 func shifted(l []impl.Transition, by int) []impl.Transition {
@@ -911,13 +914,12 @@ func checkDamagedPrefix(t *testing.T, x *numbers, b branching, cutoffs []int) (c
 	return complete
 }
 
-// finalMarkings are those of the configurations without a cut-off event.
-func (b branching) finalMarkings(cutoffs []int) map[string]bool {
-	marks := map[string]bool{}
+// ruleConfigurations are the configurations without a cut-off event, those with fewer events first.
+func (b branching) ruleConfigurations(cutoffs []int) (all [][]int) {
 	seen := map[int]bool{0: true}
 	for work := []int{0}; len(work) > 0; work = work[1:] {
 		list := setOfPlaces(work[0])
-		marks[b.ruleMarking(b.ruleCut(list))] = true
+		all = append(all, list)
 		for e := range b.u.Events {
 			next := work[0] | 1<<e
 			if !seen[next] && !slices.Contains(cutoffs, e) && b.isRuleConfiguration(append(slices.Clone(list), e)) {
@@ -925,6 +927,15 @@ func (b branching) finalMarkings(cutoffs []int) map[string]bool {
 				work = append(work, next)
 			}
 		}
+	}
+	return all
+}
+
+// finalMarkings are those of the configurations without a cut-off event.
+func (b branching) finalMarkings(cutoffs []int) map[string]bool {
+	marks := map[string]bool{}
+	for _, list := range b.ruleConfigurations(cutoffs) {
+		marks[b.ruleMarking(b.ruleCut(list))] = true
 	}
 	return marks
 }
@@ -968,21 +979,26 @@ func checkReachedMarkings(t *testing.T, s impl.STG, b branching, cutoffs []int) 
 	}
 }
 
-// TestSafePrefixes takes nets that are mostly safe: rings that meet, with some additional transitions and a token for which two transitions take turns.
+// someSafeGraph returns rings that meet, with some additional transitions and sometimes a token for which two transitions take turns. Most of them are safe.
+func someSafeGraph(x *numbers) impl.STG {
+	s := rings([][]int{{2, 3}, {3, 3}, {2, 2, 2}, {2, 4}, {3, 2, 2}}[x.below(5)]...)
+	places := len(s.Start)
+	for range 1 + x.below(3) {
+		p, q := x.below(places), x.below(places)
+		pair := slices.Compact([]int{min(p, q), max(p, q)})
+		s = with(s, "", move(pair, [][]int{pair, {p}, {q}, {(p + 1) % places}}[x.below(4)]))
+	}
+	if x.below(2) == 0 {
+		s = kept(s, 0, 2+x.below(places-2))
+	}
+	return s
+}
+
 func TestSafePrefixes(t *testing.T) {
 	x := numbers(53)
 	safe, large, tied := 0, 0, 0
 	for range 400 {
-		s := rings([][]int{{2, 3}, {3, 3}, {2, 2, 2}, {2, 4}, {3, 2, 2}}[x.below(5)]...)
-		places := len(s.Start)
-		for range 1 + x.below(3) {
-			p, q := x.below(places), x.below(places)
-			pair := slices.Compact([]int{min(p, q), max(p, q)})
-			s = with(s, "", move(pair, [][]int{pair, {p}, {q}, {(p + 1) % places}}[x.below(4)]))
-		}
-		if x.below(2) == 0 {
-			s = kept(s, 0, 2+x.below(places-2))
-		}
+		s := someSafeGraph(&x)
 		b, cutoffs, ok := rulePrefix(s.Net, s.Start)
 		if !ok {
 			checkNoPrefix(t, s.Net, s.Start)
